@@ -2,7 +2,9 @@ package tests
 
 import (
 	"reflect"
+	"strings"
 	"testing"
+	"unsafe"
 )
 
 // same holds two values against each other as the document does: an empty
@@ -80,6 +82,28 @@ func spansOf(v reflect.Value) []span {
 	case reflect.Struct:
 		for i := range v.NumField() {
 			out = append(out, spansOf(v.Field(i))...)
+		}
+	}
+	return out
+}
+
+// textsOf tells the memory of all texts in a value: a piece of a text lies in
+// that text's memory.
+func textsOf(v reflect.Value) []span {
+	var out []span
+	switch v.Kind() {
+	case reflect.String:
+		if text := v.String(); text != "" {
+			from := uintptr(unsafe.Pointer(unsafe.StringData(text)))
+			out = append(out, span{from, from + uintptr(len(text))})
+		}
+	case reflect.Slice:
+		for i := range v.Len() {
+			out = append(out, textsOf(v.Index(i))...)
+		}
+	case reflect.Struct:
+		for i := range v.NumField() {
+			out = append(out, textsOf(v.Field(i))...)
 		}
 	}
 	return out
@@ -175,15 +199,26 @@ func checkMemory(t *testing.T, what string, in []reflect.Value, answer reflect.V
 			}
 		}
 	}
+	texts := textsOf(answer)
 	for i := range in {
-		for _, a := range spansOf(in[i]) {
-			for _, b := range own {
-				if a.meets(b) {
-					t.Errorf("%s: the answer shares memory with argument %d", what, i)
-				}
+		if anyMeet(spansOf(in[i]), own) {
+			t.Errorf("%s: the answer shares memory with argument %d", what, i)
+		}
+		if anyMeet(textsOf(in[i]), texts) {
+			t.Errorf("%s: a text of the answer is a piece of argument %d", what, i)
+		}
+	}
+}
+
+func anyMeet(list, others []span) bool {
+	for _, a := range list {
+		for _, b := range others {
+			if a.meets(b) {
+				return true
 			}
 		}
 	}
+	return false
 }
 
 // checkZero: with a code that is not OK all else of an answer is zero.
@@ -216,6 +251,11 @@ func TestMemoryChecksSee(t *testing.T) {
 	c := spansOf(reflect.ValueOf(list[:1:1]))[0]
 	if c.meets(b) || b.meets(c) {
 		t.Error("lists side by side share nothing")
+	}
+	text := strings.Repeat("ab", 3)
+	d, e := textsOf(reflect.ValueOf([]string{"", text})), textsOf(reflect.ValueOf(text[2:3]))
+	if !anyMeet(d, e) || !anyMeet(e, d) || anyMeet(d, textsOf(reflect.ValueOf(strings.Clone(text)))) {
+		t.Error("a piece of a text")
 	}
 	before := whole(reflect.ValueOf(list))
 	_ = append(list, 9)
