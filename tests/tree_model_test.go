@@ -101,18 +101,25 @@ func checkTree(t *testing.T, what string, f impl.Fs) int64 {
 	return code
 }
 
+// graph is three directories and a file; each bit of the set tells whether one
+// names another.
+func graph(set int, links int64) []impl.Inode {
+	all := append(alike(3, dir()), file(links, 9, 12, 4))
+	for bit := range 12 {
+		if set>>bit&1 == 1 {
+			from, to := bit/4, bit%4
+			all[from].Entries = append(all[from].Entries, entry(string(rune('a'+to)), int64(to)))
+		}
+	}
+	return all
+}
+
 // Three directories and a file: every way in which they can name each other.
 func TestEachGraph(t *testing.T) {
 	whole := 0
 	for set := range 1 << 12 {
 		for links := int64(1); links < 4; links++ {
-			all := append(alike(3, dir()), file(links, 9, 12, 4))
-			for bit := range 12 {
-				if set>>bit&1 == 1 {
-					from, to := bit/4, bit%4
-					all[from].Entries = append(all[from].Entries, entry(string(rune('a'+to)), int64(to)))
-				}
-			}
+			all := graph(set, links)
 			if checkTree(t, fmt.Sprint(all), tree(all...)) == impl.OK {
 				whole++
 			}
@@ -161,16 +168,21 @@ func diceTree(d *dice) impl.Fs {
 		need := min((bytes+7)/8, int64(len(left)))
 		all[at] = file(0, min(bytes, need*8), left[:need]...)
 		left = left[need:]
-		for range 1 + d.below(3) {
-			if diceName(d, all, dirs, at) {
-				all[at].Links++
-			}
-		}
-		if all[at].Links == 0 {
-			all[at] = kind(0)
-		}
+		diceLinks(d, all, dirs, at, 1+d.below(3))
 	}
 	return tree(all...)
+}
+
+// diceLinks gives a file up to so many names; without any it is free.
+func diceLinks(d *dice, all []impl.Inode, dirs []int64, at, most int64) {
+	for range most {
+		if diceName(d, all, dirs, at) {
+			all[at].Links++
+		}
+	}
+	if all[at].Links == 0 {
+		all[at] = kind(0)
+	}
 }
 
 // diceName gives an inode a name in one of the directories, if there is room.
