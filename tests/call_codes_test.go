@@ -388,24 +388,11 @@ func wantNoCalls(t *testing.T, what string, f impl.Fs, code int64) {
 }
 
 func TestFaultsAheadOfCalls(t *testing.T) {
-	for set := range 1 << len(turns()) {
-		f := tree(dir(entry("a", 1), entry("b", 2)), file(1, 9, 8, 7), dir(entry("a", 3), entry("b", 4)), file(1, 1, 6), file(1, 3, 5), kind(0), kind(0))
-		what, code := "turned:", int64(impl.OK)
-		for i, c := range turns() {
-			if set>>i&1 == 1 {
-				c.do(&f)
-				what += " " + c.what + ","
-				code = firstCode(code, c.code)
-			}
-		}
-		if code != impl.OK {
-			wantNoCalls(t, what, f, code)
+	for _, c := range append(turnedTrees(), faultyTrees()...) {
+		if c.code != impl.OK {
+			wantNoCalls(t, c.what, c.fs, c.code)
 		}
 	}
-	for _, c := range brokenTrees() {
-		wantNoCalls(t, c.what, c.fs, impl.ErrForm)
-	}
-	wantNoCalls(t, "nothing", impl.Fs{}, impl.ErrForm)
 }
 
 // The codes for busy blocks come behind those of a call, and ahead of a reply,

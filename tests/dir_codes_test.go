@@ -66,7 +66,7 @@ func TestPlacesOfDirs(t *testing.T) {
 // FsFault asks behind them are asked by nobody here.
 func TestReachCodesAheadOfDirs(t *testing.T) {
 	for set := range 1 << len(turns()) {
-		f := tree(dir(entry("a", 1), entry("b", 2)), file(1, 9, 8, 7), dir(entry("a", 3), entry("b", 4)), file(1, 1, 6), file(1, 3, 5), kind(0), kind(0))
+		f := turnedTree()
 		what, code := "turned:", int64(impl.OK)
 		for i, c := range turns() {
 			if set>>i&1 == 0 {

@@ -102,7 +102,7 @@ func TestFaultsAheadOfPlaces(t *testing.T) {
 		}
 	}
 	for _, c := range turns() {
-		f := tree(dir(entry("a", 1), entry("b", 2)), file(1, 9, 8, 7), dir(entry("a", 3), entry("b", 4)), file(1, 1, 6), file(1, 3, 5), kind(0), kind(0))
+		f := turnedTree()
 		for _, at := range list(1, 3, 4) {
 			wantFileThere(t, "ahead of "+c.what, f, at)
 		}

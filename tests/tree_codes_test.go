@@ -319,9 +319,87 @@ func turns() []turn {
 	}
 }
 
+// codedTree is a file system, and its FsFault, or OK.
+type codedTree struct {
+	what string
+	fs   impl.Fs
+	code int64
+}
+
+// turnedTree is what turns are done with.
+func turnedTree() impl.Fs {
+	return tree(dir(entry("a", 1), entry("b", 2)), file(1, 9, 8, 7), dir(entry("a", 3), entry("b", 4)), file(1, 1, 6), file(1, 3, 5), kind(0), kind(0))
+}
+
+// turnedTrees have each set of turns, of which the first tells the code.
+func turnedTrees() []codedTree {
+	var all []codedTree
+	for set := range 1 << len(turns()) {
+		c := codedTree{"turned:", turnedTree(), impl.OK}
+		for i, turn := range turns() {
+			if set>>i&1 == 1 {
+				turn.do(&c.fs)
+				c.what += " " + turn.what + ","
+				c.code = firstCode(c.code, turn.code)
+			}
+		}
+		all = append(all, c)
+	}
+	return all
+}
+
+// faultyTrees have each fault alone; among them are the nearest ones that have
+// none.
+func faultyTrees() []codedTree {
+	data := make([][]byte, 20)
+	long := tree(dir(entry("a", 1)), file(1, 8, 7))
+	long.Data[7] = make([]byte, 9)
+	all := []codedTree{
+		{"nothing", impl.Fs{}, impl.ErrForm},
+		{"no inodes", impl.Fs{Inodes: inodes(), Data: data}, impl.ErrForm},
+		{"a file first", tree(file(1, 0), dir()), impl.ErrForm},
+		{"a free one first", tree(kind(0), dir()), impl.ErrForm},
+		{"a block of two", impl.Fs{Inodes: inodes(dir(entry("a", 1), entry("b", 2)), file(1, 8, 5), file(1, 8, 5)), Data: data}, impl.ErrTaken},
+		{"a block twice of one", impl.Fs{Inodes: inodes(dir(entry("a", 1)), file(1, 9, 3, 3)), Data: data}, impl.ErrTaken},
+		{"a block of a byte more", long, impl.ErrMany},
+		{"an entry of no place", tree(dir(entry("a", 2)), dir()), impl.ErrNone},
+		{"an entry of a free one", tree(dir(entry("a", 2), entry("b", 1)), dir(), kind(0)), impl.ErrNone},
+		{"an entry of MaxInodes", tree(dir(entry("a", 10)), dir()), impl.ErrRange},
+		{"a wrong name", tree(dir(entry("A", 1)), file(1, 0)), impl.ErrText},
+		{"a long name", tree(dir(entry("abcde", 1)), file(1, 0)), impl.ErrMany},
+		{"names that fall", tree(dir(entry("b", 1), entry("a", 1)), file(2, 0)), impl.ErrForm},
+		{"names that are the same", tree(dir(entry("a", 1), entry("a", 1)), file(2, 0)), impl.ErrForm},
+		{"no links", tree(dir(entry("a", 1)), file(0, 0)), impl.ErrRange},
+	}
+	for _, c := range brokenTrees() {
+		all = append(all, codedTree{c.what, c.fs, impl.ErrForm})
+	}
+	for _, c := range allInodeCases() {
+		for _, top := range inodes(dir(entry("a", 1)), dir()) {
+			f := impl.Fs{Inodes: inodes(top, c.inode), Data: data}
+			all = append(all, codedTree{c.what, f, modelFault(f)})
+		}
+	}
+	for n := range 13 {
+		f := tree(append(inodes(dir()), alike(n, kind(0))...)...)
+		all = append(all, codedTree{fmt.Sprint(n+1, " inodes"), f, codeIf(n >= 10, impl.ErrMany)})
+	}
+	for _, n := range []int{0, 1, 19, 20, 21} {
+		f := impl.Fs{Inodes: inodes(dir(entry("a", 1)), dir()), Data: make([][]byte, n)}
+		all = append(all, codedTree{fmt.Sprint(n, " Data"), f, codeIf(n != 20, impl.ErrForm)})
+	}
+	return all
+}
+
+func TestCodesOfFaultyTrees(t *testing.T) {
+	for _, c := range append(turnedTrees(), faultyTrees()...) {
+		wantCode(t, c.what, impl.FsFault(c.fs), c.code)
+	}
+}
+
 func TestWhichFaultComesFirst(t *testing.T) {
 	for set := range 1 << len(turns()) {
-		f := tree(dir(entry("a", 1), entry("b", 2)), file(1, 9, 8, 7), dir(entry("a", 3), entry("b", 4)), file(1, 1, 6), file(1, 3, 5), kind(0), kind(0))
+		f := turnedTree()
 		what := "nothing"
 		first := turn{code: impl.OK}
 		for i, c := range turns() {

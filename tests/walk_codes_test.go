@@ -38,62 +38,13 @@ func wantNoWays(t *testing.T, what string, f impl.Fs, code int64) {
 }
 
 func TestFaultsAheadOfWays(t *testing.T) {
-	for set := range 1 << len(turns()) {
-		f := tree(dir(entry("a", 1), entry("b", 2)), file(1, 9, 8, 7), dir(entry("a", 3), entry("b", 4)), file(1, 1, 6), file(1, 3, 5), kind(0), kind(0))
-		what, code := "turned:", int64(impl.OK)
-		for i, c := range turns() {
-			if set>>i&1 == 1 {
-				c.do(&f)
-				what += " " + c.what + ","
-				code = firstCode(code, c.code)
-			}
-		}
-		if code == impl.OK {
-			checkWhole(t, what, f)
+	for _, c := range append(turnedTrees(), faultyTrees()...) {
+		if c.code == impl.OK {
+			checkWhole(t, c.what, c.fs)
 		} else {
-			wantNoWays(t, what, f, code)
+			wantNoWays(t, c.what, c.fs, c.code)
 		}
 	}
-}
-
-func TestEachFaultOfWays(t *testing.T) {
-	for _, c := range brokenTrees() {
-		wantNoWays(t, c.what, c.fs, impl.ErrForm)
-	}
-	for _, c := range allInodeCases() {
-		f := impl.Fs{Inodes: inodes(dir(entry("a", 1)), c.inode), Data: make([][]byte, 20)}
-		if code := impl.FsFault(f); code != impl.OK {
-			wantNoWays(t, c.what, f, code)
-		}
-	}
-	for n := range 13 {
-		f := tree(append(inodes(dir()), alike(n, kind(0))...)...)
-		if n < 10 {
-			checkWhole(t, fmt.Sprint(n+1, " inodes"), f)
-		} else {
-			wantNoWays(t, fmt.Sprint(n+1, " inodes"), f, impl.ErrMany)
-		}
-	}
-	for _, n := range []int{0, 1, 19, 20, 21} {
-		f := impl.Fs{Inodes: inodes(dir(entry("a", 1)), dir()), Data: make([][]byte, n)}
-		if n == 20 {
-			checkWhole(t, "DataBlocks", f)
-		} else {
-			wantNoWays(t, fmt.Sprint(n, " Data"), f, impl.ErrForm)
-		}
-	}
-	data := make([][]byte, 20)
-	wantNoWays(t, "nothing", impl.Fs{}, impl.ErrForm)
-	wantNoWays(t, "no inodes", impl.Fs{Inodes: inodes(), Data: data}, impl.ErrForm)
-	wantNoWays(t, "a file first", tree(file(1, 0), dir()), impl.ErrForm)
-	wantNoWays(t, "a block of two", impl.Fs{Inodes: inodes(dir(entry("a", 1), entry("b", 2)), file(1, 8, 5), file(1, 8, 5)), Data: data}, impl.ErrTaken)
-	wantNoWays(t, "an entry of no place", tree(dir(entry("a", 2)), dir()), impl.ErrNone)
-	wantNoWays(t, "an entry of a free one", tree(dir(entry("a", 2), entry("b", 1)), dir(), kind(0)), impl.ErrNone)
-	long := tree(dir(entry("a", 1)), file(1, 8, 7))
-	long.Data[7] = make([]byte, 9)
-	wantNoWays(t, "a block of a byte more", long, impl.ErrMany)
-	wantNoWays(t, "a wrong name", tree(dir(entry("A", 1)), file(1, 0)), impl.ErrText)
-	wantNoWays(t, "no links", tree(dir(entry("a", 1)), file(0, 0)), impl.ErrRange)
 }
 
 // Each code of SplitPath comes ahead of where a way breaks off.
