@@ -120,6 +120,14 @@ func (v *drive) settle(picks []bool) {
 	v.cache = nil
 }
 
+func (v *drive) flush() {
+	v.settle(allPicked(len(v.cache)))
+}
+
+func (v *drive) isFull() bool {
+	return len(v.cache) >= maxCache
+}
+
 // disk gives the drive's own memory away; the drive is not used behind it.
 func (v *drive) disk() Disk {
 	d := Disk{Blocks: v.blocks.lists}
@@ -202,10 +210,10 @@ func PutBlock(d Disk, at int64, words []int64) DiskResult {
 	if code := wordsFault(words); code != OK {
 		return DiskResult{Code: code}
 	}
-	if len(d.Cache) >= maxCache {
+	v := openDisk(d)
+	if v.isFull() {
 		return DiskResult{Code: ErrMany}
 	}
-	v := openDisk(d)
 	v.put(at, words)
 	return DiskResult{Disk: v.disk()}
 }
@@ -222,7 +230,7 @@ func FlushDisk(d Disk) DiskResult {
 		return DiskResult{Code: code}
 	}
 	v := openDisk(d)
-	v.settle(allPicked(len(v.cache)))
+	v.flush()
 	return DiskResult{Disk: v.disk()}
 }
 
