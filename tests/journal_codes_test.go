@@ -259,41 +259,55 @@ func TestStepsThatHaveNoRoom(t *testing.T) {
 	wantDisk(t, "no step", run(t, "no step", full, nil), full)
 }
 
+// mishap is a set of things that are wrong, one bit each. They are asked in the
+// order in which their codes come.
+type mishap struct {
+	set  int
+	bit  int
+	code int64
+}
+
+func (w *mishap) has(code int64) bool {
+	is := w.set>>w.bit&1 == 1
+	w.bit++
+	w.code = firstCode(w.code, codeIf(is, code))
+	return is
+}
+
+// turn is the first three of them: the faults of a disk, and its size.
+func (w *mishap) turn(d *impl.Disk) {
+	if w.has(impl.ErrMany) {
+		d.Cache = emptyPuts(201)
+	}
+	if w.has(impl.ErrRange) {
+		d.Blocks[46] = list(65536)
+	}
+	if w.has(impl.ErrForm) {
+		d.Blocks = append(d.Blocks, nil)
+	}
+}
+
 // All that may be wrong with what RunSteps is told, together.
 func TestWhichCodeOfRunStepsComesFirst(t *testing.T) {
 	for set := range 1 << 7 {
-		d := formatted(t, 5)
+		w, d := mishap{set: set}, formatted(t, 5)
 		all := steps(stepOf(3, 1))
-		var codes []int64
-		has := func(bit int, code int64) bool {
-			is := set>>bit&1 == 1
-			codes = append(codes, codeIf(is, code))
-			return is
-		}
-		if has(0, impl.ErrMany) {
-			d.Cache = emptyPuts(201)
-		}
-		if has(1, impl.ErrRange) {
-			d.Blocks[46] = list(65536)
-		}
-		if has(2, impl.ErrForm) {
-			d.Blocks = append(d.Blocks, nil)
-		}
-		if has(3, impl.ErrMany) {
+		w.turn(&d)
+		if w.has(impl.ErrMany) {
 			all = append(all, slices.Repeat(steps(flushStep()), 130)...)
 		}
-		if has(4, impl.ErrForm) {
+		if w.has(impl.ErrForm) {
 			all = slices.Insert(all, 0, impl.Step{Flush: true, At: 1})
 		}
-		if has(5, impl.ErrMany) && len(d.Cache) == 0 {
+		if w.has(impl.ErrMany) && len(d.Cache) == 0 {
 			d.Cache = emptyPuts(200)
 		}
-		if has(6, impl.ErrRange) {
+		if w.has(impl.ErrRange) {
 			all = append(all, stepOf(47))
 		}
 		what := fmt.Sprint("set ", set)
-		if code := firstCode(codes...); code != impl.OK {
-			wantNoDisk(t, what, impl.RunSteps(d, all), code)
+		if w.code != impl.OK {
+			wantNoDisk(t, what, impl.RunSteps(d, all), w.code)
 		} else {
 			wantDisk(t, what, run(t, what, d, all), put(t, d, 3, 1))
 		}
@@ -304,35 +318,22 @@ func TestWhichCodeOfRunStepsComesFirst(t *testing.T) {
 // number, the file system, and the number that has none behind it.
 func TestWhichCodeOfPlanSyncComesFirst(t *testing.T) {
 	for set := range 1 << 6 {
-		d, f := imageDisk(5, turnedTree()), turnedTree()
-		var codes []int64
-		has := func(bit int, code int64) bool {
-			is := set>>bit&1 == 1
-			codes = append(codes, codeIf(is, code))
-			return is
-		}
-		if has(0, impl.ErrMany) {
-			d.Cache = emptyPuts(201)
-		}
-		if has(1, impl.ErrRange) {
-			d.Blocks[46] = list(65536)
-		}
-		if has(2, impl.ErrForm) {
-			d.Blocks = append(d.Blocks, nil)
-		}
-		if has(3, impl.ErrText) {
-			d.Blocks[0] = list(7, 60001)
-		}
-		if has(4, impl.ErrNone) {
+		w, d, f := mishap{set: set}, imageDisk(5, turnedTree()), turnedTree()
+		w.turn(&d)
+		isNone := w.has(impl.ErrText)
+		if w.has(impl.ErrNone) {
 			f.Inodes[2].Entries[1].Inode = 5
 		}
-		if has(5, impl.ErrFull) && set&8 == 0 {
+		if w.has(impl.ErrFull) {
 			d.Blocks[0] = list(7, 60000)
 		}
+		if isNone {
+			d.Blocks[0] = list(7, 60001)
+		}
 		what := fmt.Sprint("set ", set)
-		if code := firstCode(codes...); code != impl.OK {
-			wantNoSteps(t, what, impl.PlanSync(d, f), code)
-			wantNoSteps(t, what+", by the model", modelSync(d, f), code)
+		if w.code != impl.OK {
+			wantNoSteps(t, what, impl.PlanSync(d, f), w.code)
+			wantNoSteps(t, what+", by the model", modelSync(d, f), w.code)
 		} else {
 			wantSteps(t, what, impl.PlanSync(d, f), nil)
 		}

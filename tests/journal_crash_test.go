@@ -215,7 +215,7 @@ func TestSyncsByHand(t *testing.T) {
 	var count [2]int
 	for i, c := range cuttingsByHand(t) {
 		checkWholeSync(t, c.what, c.disk, c.fs)
-		if i%3 == 0 || len(impl.PlanSync(c.disk, c.fs).Steps) < 14 {
+		if i%5 == 0 || len(impl.PlanSync(c.disk, c.fs).Steps) < 14 {
 			n := checkCutSync(t, &x, c)
 			count[0], count[1] = count[0]+n[0], count[1]+n[1]
 		}
@@ -256,7 +256,7 @@ func TestWholeSyncsByDice(t *testing.T) {
 func TestCutSyncsByDice(t *testing.T) {
 	x := dice(63)
 	var count [2]int
-	for row := range 100 {
+	for row := range 70 {
 		old := diceBytes(&x, shuffled(&x, diceTree(&x)))
 		f, is := awayFrom(diceBytes(&x, shuffled(&x, []impl.Fs{diceTree(&x), diceDeep(&x)}[row%2])), old)
 		if !is {
