@@ -66,6 +66,28 @@ func checkParts(t *testing.T, name string, text []byte) {
 			if lines > maxLines {
 				t.Errorf("%s: %s has %d lines", name, f.Name.Name, lines)
 			}
+			if !looksAtArguments(f) {
+				t.Errorf("%s: %s looks at nothing that it is told", name, f.Name.Name)
+			}
 		}
 	}
+}
+
+// looksAtArguments is false of a body that is not built yet: it names none of
+// what its function is told.
+func looksAtArguments(f *ast.FuncDecl) bool {
+	told := map[string]bool{}
+	for _, field := range f.Type.Params.List {
+		for _, name := range field.Names {
+			told[name.Name] = true
+		}
+	}
+	found := len(told) == 0
+	ast.Inspect(f.Body, func(n ast.Node) bool {
+		if id, is := n.(*ast.Ident); is && told[id.Name] {
+			found = true
+		}
+		return true
+	})
+	return found
 }
